@@ -7,24 +7,8 @@ import (
 
 	"hamper/api"
 	"hamper/field"
+	"hamper/sample"
 )
-
-// numbers are from all over the field, the same ones each time.
-type numbers struct{ state uint32 }
-
-func (s *numbers) next() uint16 {
-	s.state = s.state*1664525 + 1013904223
-	return uint16(s.state >> 16)
-}
-
-// list is n of them.
-func (s *numbers) list(n int) []uint16 {
-	p := make([]uint16, n)
-	for i := range p {
-		p[i] = s.next()
-	}
-	return p
-}
 
 // some are polynomials of all sorts: none, 0s alone, 0s at the end, in front and within, the chapter's own, and others.
 func some() [][]uint16 {
@@ -34,9 +18,9 @@ func some() [][]uint16 {
 		{1, 1}, {1, 0, 1}, {3, 0, 1}, {5, 6, 7, 8}, {6, 1, 1},
 		{7, 0, 300, 1}, {9, 40000}, {9, 40000, 0, 0}, {0, 0, 65535, 32768, 0, 2},
 	}
-	s := &numbers{state: 7}
+	s := sample.From(7)
 	for _, n := range []int{2, 3, 4, 5, 8, 13, 31} {
-		all = append(all, s.list(n))
+		all = append(all, s.List(n))
 	}
 	return all
 }
@@ -330,8 +314,8 @@ func TestDivided(t *testing.T) {
 
 // P2.3: one of roots is 0 at each of them and at no other symbol of the whole field.
 func TestRootsAlone(t *testing.T) {
-	s := &numbers{state: 3}
-	for _, roots := range [][]uint16{{}, {0}, {65535}, {5, 6, 7}, {9, 9, 0, 1}, s.list(8)} {
+	s := sample.From(3)
+	for _, roots := range [][]uint16{{}, {0}, {65535}, {5, 6, 7}, {9, 9, 0, 1}, s.List(8)} {
 		p := Of(roots)
 		for x := range 1 << 16 {
 			if is := At(p, uint16(x)) == 0; is != slices.Contains(roots, uint16(x)) {
@@ -412,15 +396,6 @@ func TestHigher(t *testing.T) {
 	}
 }
 
-// roomy is p with room behind its end, full of numbers that are not its own.
-func roomy(p []uint16) []uint16 {
-	full := append(slices.Clone(p), 11, 12, 13, 14, 15, 16, 17, 18)
-	return full[:len(p)]
-}
-
-// whole is p with all its room.
-func whole(p []uint16) []uint16 { return p[:cap(p)] }
-
 // answers are all lists that are told of a and b.
 func answers(a, b []uint16) [][]uint16 {
 	q, r, _ := Div(a, b)
@@ -431,13 +406,13 @@ func answers(a, b []uint16) [][]uint16 {
 func TestNewMemory(t *testing.T) {
 	for _, p := range some() {
 		for _, o := range some() {
-			a, b := roomy(p), roomy(o)
-			wholeA, wholeB := slices.Clone(whole(a)), slices.Clone(whole(b))
+			a, b := sample.Roomy(p, 11), sample.Roomy(o, 11)
+			wholeA, wholeB := slices.Clone(sample.Whole(a)), slices.Clone(sample.Whole(b))
 			asked, told := answers(slices.Clone(p), slices.Clone(o)), answers(a, b)
 			for i := range told {
 				same(t, "told", told[i], asked[i])
-				for j := range whole(told[i]) {
-					whole(told[i])[j] = 999
+				for j := range sample.Whole(told[i]) {
+					sample.Whole(told[i])[j] = 999
 				}
 				for k := i + 1; k < len(told); k++ {
 					same(t, "told beside it", told[k], asked[k])
@@ -450,8 +425,8 @@ func TestNewMemory(t *testing.T) {
 					}
 				}
 			}
-			same(t, "a with its room", whole(a), wholeA)
-			same(t, "b with its room", whole(b), wholeB)
+			same(t, "a with its room", sample.Whole(a), wholeA)
+			same(t, "b with its room", sample.Whole(b), wholeB)
 		}
 	}
 }
@@ -459,7 +434,7 @@ func TestNewMemory(t *testing.T) {
 // R3: one list as both arguments.
 func TestSameTwice(t *testing.T) {
 	for _, p := range some() {
-		a, kept := roomy(p), slices.Clone(p)
+		a, kept := sample.Roomy(p, 11), slices.Clone(p)
 		same(t, "square", Mul(a, a), longhandProduct(p, p))
 		same(t, "twice", Add(a, a), nil)
 		if q, r, e := Div(a, a); degree(p) >= 0 && (e != api.OK || !slices.Equal(q, []uint16{1}) || len(r) != 0) {
@@ -488,14 +463,14 @@ func TestMany(t *testing.T) {
 
 // Long ones, whose lists outgrow any fixed room.
 func TestLong(t *testing.T) {
-	s := &numbers{state: 5}
-	a, b := append(s.list(700), 1), append(s.list(255), 9)
+	s := sample.From(5)
+	a, b := append(s.List(700), 1), append(s.List(255), 9)
 	product := Mul(a, b)
 	same(t, "long product", product, longhandProduct(a, b))
 	q, r := mustDiv(t, Add(product, []uint16{3, 4}), b)
 	same(t, "long quotient", q, a)
 	same(t, "long rest", r, []uint16{3, 4})
-	roots := s.list(255)
+	roots := s.List(255)
 	p := Of(roots)
 	if len(p) != 256 || p[255] != 1 {
 		t.Errorf("Of 255: %d coefficients", len(p))
@@ -508,16 +483,16 @@ func TestLong(t *testing.T) {
 }
 
 func BenchmarkMul(b *testing.B) {
-	s := &numbers{state: 5}
-	p, q := s.list(128), s.list(128)
+	s := sample.From(5)
+	p, q := s.List(128), s.List(128)
 	for b.Loop() {
 		Mul(p, q)
 	}
 }
 
 func BenchmarkAt(b *testing.B) {
-	s := &numbers{state: 5}
-	p := s.list(255)
+	s := sample.From(5)
+	p := s.List(255)
 	for b.Loop() {
 		At(p, 777)
 	}
