@@ -32,3 +32,13 @@ func Roomy[T any](list []T, behind T) []T {
 
 // Whole is a list with all its room.
 func Whole[T any](list []T) []T { return list[:cap(list)] }
+
+// Places are count of the places from 0 to n - 1, no two the same, in no order.
+func (s *Numbers) Places(n, count int) []int {
+	all := make([]int, n)
+	for i := range all {
+		j := int(s.Next()) % (i + 1)
+		all[i], all[j] = all[j], i
+	}
+	return all[:count]
+}
