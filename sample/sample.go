@@ -42,3 +42,12 @@ func (s *Numbers) Places(n, count int) []int {
 	}
 	return all[:count]
 }
+
+// Text are the next n of them as a text, each by its higher byte.
+func (s *Numbers) Text(n int) string {
+	text := make([]byte, n)
+	for i := range text {
+		text[i] = byte(s.Next() >> 8)
+	}
+	return string(text)
+}
