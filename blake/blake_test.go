@@ -11,15 +11,6 @@ import (
 	"hamper/sample"
 )
 
-// counting are n bytes that count up from 0 to 250, again and again.
-func counting(n int) string {
-	text := make([]byte, n)
-	for i := range text {
-		text[i] = byte(i % 251)
-	}
-	return string(text)
-}
-
 // edges are lengths about a block's end, and others.
 func edges() []int {
 	return []int{0, 1, 2, 31, 32, 33, 63, 64, 65, 127, 128, 129, 191, 192, 193, 500, 1000}
@@ -188,7 +179,7 @@ func TestKnown(t *testing.T) {
 		{1000, "1c067a5e746fb0f6734efac9a8cdb0e11061f0077f255184365c690115392501"},
 		{65536, "b274d4c4980021755013dbeb61d225268f6238998ba08c25df654277fb4cbff0"},
 	} {
-		text := counting(known.length)
+		text := sample.Counting(known.length)
 		isDigest(t, "Sum", Sum(text), known.digest)
 		isDigest(t, "Keyed by none", mustKeyed(t, "", text), known.digest)
 		isDigest(t, "New, Add, Sum", of(t, text).Sum(), known.digest)
@@ -214,7 +205,7 @@ func TestKnownKeyed(t *testing.T) {
 		{32, 128, "0c311f38c35a4fb90d651c289d486856cd1413df9b0677f53ece2cd9e477c60a"},
 		{32, 255, "1198d1da21a1ef3056099ef664dd9c6b06c482674dc334dbafd1627be358bfb5"},
 	} {
-		isDigest(t, "Keyed", mustKeyed(t, counting(known.key), counting(known.length)), known.digest)
+		isDigest(t, "Keyed", mustKeyed(t, sample.Counting(known.key), sample.Counting(known.length)), known.digest)
 	}
 }
 
@@ -223,7 +214,7 @@ func TestAllLengths(t *testing.T) {
 	all := New()
 	for key := range 33 {
 		for length := range 301 {
-			mustAdd(t, all, mustKeyed(t, counting(key), counting(length)))
+			mustAdd(t, all, mustKeyed(t, sample.Counting(key), sample.Counting(length)))
 		}
 	}
 	isDigest(t, "of all digests", all.Sum(), "b40d387e441851c72251634a40265b027e35491f9a1e30064377be90f4b6a68c")
@@ -245,11 +236,11 @@ func TestAsLonghand(t *testing.T) {
 // P5.1: a key of no bytes is none, one of 32 may be, none that is longer may, whatever the bytes are; nothing is told beside the error (R4).
 func TestKeyEdges(t *testing.T) {
 	for _, length := range edges() {
-		text := counting(length)
+		text := sample.Counting(length)
 		same(t, "by none", mustKeyed(t, "", text), Sum(text))
-		same(t, "by 32 bytes", mustKeyed(t, counting(32), text), longhand(counting(32), text))
+		same(t, "by 32 bytes", mustKeyed(t, sample.Counting(32), text), longhand(sample.Counting(32), text))
 		for _, key := range []int{33, 34, 63, 64, 65, 128, 256, 288, 65536} {
-			if digest, e := Keyed(counting(key), text); e != api.ErrArg || digest != "" {
+			if digest, e := Keyed(sample.Counting(key), text); e != api.ErrArg || digest != "" {
 				t.Errorf("Keyed by %d bytes: %x, %v", key, digest, e)
 			}
 		}
@@ -283,11 +274,11 @@ func TestKeyIsNoText(t *testing.T) {
 func TestLongCount(t *testing.T) {
 	h := New()
 	h.state.through = 1<<32 - 64
-	mustAdd(t, h, counting(150))
+	mustAdd(t, h, sample.Counting(150))
 	isDigest(t, "past 2^32", h.Sum(), "15fc5760fbcdd448a3676e0d7a0d9bf97c3fcd36ecd10d1a90c9fc4eb0174668")
 	h = New()
 	h.state.through = 5 << 32
-	mustAdd(t, h, counting(3))
+	mustAdd(t, h, sample.Counting(3))
 	isDigest(t, "past 5 times 2^32", h.Sum(), "577721e863ccb94fad1e97b894906df1762445b7a36d0d53748669def9ef1e0d")
 }
 
@@ -302,7 +293,7 @@ func TestNoBytes(t *testing.T) {
 // P5.2, R1: a hash that is nil.
 func TestNil(t *testing.T) {
 	var h *Hash
-	for _, text := range []string{"", "abc", counting(1000)} {
+	for _, text := range []string{"", "abc", sample.Counting(1000)} {
 		if e := h.Add(text); e != api.ErrNil {
 			t.Errorf("Add to nil: %v", e)
 		}
@@ -321,14 +312,14 @@ func TestNil(t *testing.T) {
 func TestMadeOtherwise(t *testing.T) {
 	h := &Hash{}
 	for _, length := range edges() {
-		h.Add(counting(length))
+		h.Add(sample.Counting(length))
 		h.Copy().Add(h.Sum())
 	}
 }
 
 // P5.2: a hash goes on behind a digest.
 func TestGoesOn(t *testing.T) {
-	text := counting(400)
+	text := sample.Counting(400)
 	h := New()
 	for i := range text {
 		same(t, "so far", h.Sum(), Sum(text[:i]))
@@ -403,7 +394,7 @@ func TestAlways32(t *testing.T) {
 		}
 	}
 	for key := range 33 {
-		if n := len(mustKeyed(t, counting(key), "abc")); n != 32 {
+		if n := len(mustKeyed(t, sample.Counting(key), "abc")); n != 32 {
 			t.Errorf("Keyed by %d bytes: %d", key, n)
 		}
 	}
@@ -453,16 +444,16 @@ func TestCopies(t *testing.T) {
 
 // P5.5: a digest that is asked for, and nothing that is added, changes nothing.
 func TestChangesNothing(t *testing.T) {
-	text := counting(300)
+	text := sample.Counting(300)
 	for _, length := range edges() {
-		h := of(t, counting(length))
+		h := of(t, sample.Counting(length))
 		for range 3 {
-			same(t, "asked for again", h.Sum(), Sum(counting(length)))
+			same(t, "asked for again", h.Sum(), Sum(sample.Counting(length)))
 			mustAdd(t, h, "")
 			h.Copy().Add("not the hash's own")
 		}
 		mustAdd(t, h, text)
-		same(t, "and then more", h.Sum(), Sum(counting(length)+text))
+		same(t, "and then more", h.Sum(), Sum(sample.Counting(length)+text))
 	}
 }
 
@@ -471,14 +462,14 @@ func TestAgain(t *testing.T) {
 	s := sample.From(65)
 	open, text := New(), ""
 	for range 500 {
-		key, bytes := counting(int(s.Next())%33), s.Text(int(s.Next())%150)
+		key, bytes := sample.Counting(int(s.Next())%33), s.Text(int(s.Next())%150)
 		switch s.Next() % 4 {
 		case 0:
 			same(t, "Sum", Sum(bytes), longhand("", bytes))
 		case 1:
 			same(t, "Keyed", mustKeyed(t, key, bytes), longhand(key, bytes))
 		case 2:
-			Keyed(bytes+counting(33), bytes)
+			Keyed(bytes+sample.Counting(33), bytes)
 		default:
 			piece := bytes[:len(bytes)/4]
 			mustAdd(t, open, piece)
@@ -490,7 +481,7 @@ func TestAgain(t *testing.T) {
 
 // P5.6, R2: the same from many at once, and from copies of one hash.
 func TestMany(t *testing.T) {
-	text := counting(100)
+	text := sample.Counting(100)
 	h := of(t, text)
 	digests := make([][3]string, 16)
 	var all sync.WaitGroup
@@ -517,7 +508,7 @@ func TestMany(t *testing.T) {
 func TestKept(t *testing.T) {
 	h := New()
 	for i, length := range append(edges(), edges()...) {
-		mustAdd(t, h, counting(length))
+		mustAdd(t, h, sample.Counting(length))
 		if len(h.left) > 64 || cap(h.left) != len(h.left) {
 			t.Errorf("at step %d %d bytes are kept, in room for %d", i, len(h.left), cap(h.left))
 		}
@@ -525,7 +516,7 @@ func TestKept(t *testing.T) {
 }
 
 func BenchmarkSector(b *testing.B) {
-	text := counting(api.MaxSize)
+	text := sample.Counting(api.MaxSize)
 	b.SetBytes(int64(len(text)))
 	for b.Loop() {
 		Sum(text)
@@ -533,7 +524,7 @@ func BenchmarkSector(b *testing.B) {
 }
 
 func BenchmarkByteByByte(b *testing.B) {
-	h, text := New(), counting(64)
+	h, text := New(), sample.Counting(64)
 	for b.Loop() {
 		for i := range text {
 			h.Add(text[i : i+1])

@@ -51,3 +51,12 @@ func (s *Numbers) Text(n int) string {
 	}
 	return string(text)
 }
+
+// Counting are n bytes that count up from 0 to 250, again and again.
+func Counting(n int) string {
+	text := make([]byte, n)
+	for i := range text {
+		text[i] = byte(i % 251)
+	}
+	return string(text)
+}
