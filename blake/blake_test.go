@@ -8,13 +8,9 @@ import (
 	"testing"
 
 	"hamper/api"
+	"hamper/hashes"
 	"hamper/sample"
 )
-
-// edges are lengths about a block's end, and others.
-func edges() []int {
-	return []int{0, 1, 2, 31, 32, 33, 63, 64, 65, 127, 128, 129, 191, 192, 193, 500, 1000}
-}
 
 // isDigest fails if a digest is not that of these hexadecimal digits.
 func isDigest(t *testing.T, what, digest, asked string) {
@@ -42,22 +38,19 @@ func mustKeyed(t *testing.T, key, s string) string {
 	return digest
 }
 
-// mustAdd adds pieces, one behind the other.
-func mustAdd(t *testing.T, h *Hash, pieces ...string) {
-	t.Helper()
-	for _, piece := range pieces {
-		if e := h.Add(piece); e != api.OK {
-			t.Fatalf("Add of %d bytes: %v", len(piece), e)
-		}
-	}
-}
-
-// of is a hash of pieces.
-func of(t *testing.T, pieces ...string) *Hash {
+// of is a hash of a text.
+func of(t *testing.T, text string) *Hash {
 	t.Helper()
 	h := New()
-	mustAdd(t, h, pieces...)
+	if e := h.Add(text); e != api.OK {
+		t.Fatalf("Add of %d bytes: %v", len(text), e)
+	}
 	return h
+}
+
+// kind is what the tests of all hashes ask for.
+func kind(t *testing.T) hashes.Kind[*Hash] {
+	return hashes.Kind[*Hash]{New: New, Sum: Sum, Fail: t.Fatal}
 }
 
 // longhandRows are the ten rows, as hexadecimal digits.
@@ -214,7 +207,7 @@ func TestAllLengths(t *testing.T) {
 	all := New()
 	for key := range 33 {
 		for length := range 301 {
-			mustAdd(t, all, mustKeyed(t, sample.Counting(key), sample.Counting(length)))
+			all.Add(mustKeyed(t, sample.Counting(key), sample.Counting(length)))
 		}
 	}
 	isDigest(t, "of all digests", all.Sum(), "b40d387e441851c72251634a40265b027e35491f9a1e30064377be90f4b6a68c")
@@ -223,7 +216,7 @@ func TestAllLengths(t *testing.T) {
 // P5.1: bytes of all sorts, as the chapter's words have it.
 func TestAsLonghand(t *testing.T) {
 	s := sample.From(51)
-	for _, length := range edges() {
+	for _, length := range hashes.Edges() {
 		for _, text := range []string{s.Text(length), strings.Repeat("\x00", length), strings.Repeat("\xff", length)} {
 			same(t, "Sum", Sum(text), longhand("", text))
 			for _, key := range []string{s.Text(1), s.Text(7), s.Text(31), s.Text(32), "\x00", strings.Repeat("\xff", 32)} {
@@ -235,7 +228,7 @@ func TestAsLonghand(t *testing.T) {
 
 // P5.1: a key of no bytes is none, one of 32 may be, none that is longer may, whatever the bytes are; nothing is told beside the error (R4).
 func TestKeyEdges(t *testing.T) {
-	for _, length := range edges() {
+	for _, length := range hashes.Edges() {
 		text := sample.Counting(length)
 		same(t, "by none", mustKeyed(t, "", text), Sum(text))
 		same(t, "by 32 bytes", mustKeyed(t, sample.Counting(32), text), longhand(sample.Counting(32), text))
@@ -274,97 +267,32 @@ func TestKeyIsNoText(t *testing.T) {
 func TestLongCount(t *testing.T) {
 	h := New()
 	h.state.through = 1<<32 - 64
-	mustAdd(t, h, sample.Counting(150))
+	h.Add(sample.Counting(150))
 	isDigest(t, "past 2^32", h.Sum(), "15fc5760fbcdd448a3676e0d7a0d9bf97c3fcd36ecd10d1a90c9fc4eb0174668")
 	h = New()
 	h.state.through = 5 << 32
-	mustAdd(t, h, sample.Counting(3))
+	h.Add(sample.Counting(3))
 	isDigest(t, "past 5 times 2^32", h.Sum(), "577721e863ccb94fad1e97b894906df1762445b7a36d0d53748669def9ef1e0d")
 }
 
-// P5.2: a hash of no bytes, and one to which none were added.
+// P5.2: a hash of no bytes, and one that is nil (R1).
 func TestNoBytes(t *testing.T) {
-	same(t, "New", New().Sum(), Sum(""))
-	same(t, "nothing added", of(t, "", "", "").Sum(), Sum(""))
-	same(t, "its copy", of(t, "").Copy().Sum(), Sum(""))
+	kind(t).NoBytes()
+	kind(t).Nil()
 	same(t, "as the chapter has it", Sum(""), longhand("", ""))
 }
 
-// P5.2, R1: a hash that is nil.
-func TestNil(t *testing.T) {
-	var h *Hash
-	for _, text := range []string{"", "abc", sample.Counting(1000)} {
-		if e := h.Add(text); e != api.ErrNil {
-			t.Errorf("Add to nil: %v", e)
-		}
-		same(t, "Sum of nil", h.Sum(), Sum(""))
-	}
-	if other := h.Copy(); other != nil {
-		t.Errorf("Copy of nil: %v", other)
-	}
-	same(t, "Sum of nil's copy", h.Copy().Sum(), Sum(""))
-	if e := h.Copy().Add("abc"); e != api.ErrNil {
-		t.Errorf("Add to nil's copy: %v", e)
-	}
-}
-
 // R1: a hash that is not of New's; nothing is promised but that each call ends and none panics.
-func TestMadeOtherwise(t *testing.T) {
-	h := &Hash{}
-	for _, length := range edges() {
-		h.Add(sample.Counting(length))
-		h.Copy().Add(h.Sum())
-	}
-}
+func TestMadeOtherwise(t *testing.T) { kind(t).Ends(&Hash{}) }
 
 // P5.2: a hash goes on behind a digest.
-func TestGoesOn(t *testing.T) {
-	text := sample.Counting(400)
-	h := New()
-	for i := range text {
-		same(t, "so far", h.Sum(), Sum(text[:i]))
-		mustAdd(t, h, text[i:i+1])
-	}
-	same(t, "all", h.Sum(), Sum(text))
-}
+func TestGoesOn(t *testing.T) { kind(t).GoesOn() }
 
-// P5.3: cut in two, and in three, at each place.
-func TestCutAnywhere(t *testing.T) {
-	text := sample.From(53).Text(200)
-	for first := range len(text) + 1 {
-		same(t, "two pieces", of(t, text[:first], text[first:]).Sum(), Sum(text))
-		same(t, "none between", of(t, "", text[:first], "", text[first:], "").Sum(), Sum(text))
-		for second := first; second <= len(text); second += 7 {
-			same(t, "three pieces", of(t, text[:first], text[first:second], text[second:]).Sum(), Sum(text))
-		}
-	}
-}
-
-// P5.3: pieces of one length, among them those that end just at a block's end.
-func TestPiecesOfOneLength(t *testing.T) {
-	text := sample.From(55).Text(640)
-	for length := 1; length <= 200; length++ {
-		h := New()
-		for at := 0; at < len(text); at += length {
-			end := min(at+length, len(text))
-			mustAdd(t, h, text[at:end])
-			same(t, "so far", h.Sum(), Sum(text[:end]))
-		}
-	}
-}
-
-// P5.3: pieces of whatever length, many of them none.
-func TestAnyPieces(t *testing.T) {
-	s := sample.From(57)
-	for range 200 {
-		h, all := New(), ""
-		for range 20 {
-			piece := s.Text(int(s.Next()) % 3 * (int(s.Next()) % 70))
-			all += piece
-			mustAdd(t, h, piece)
-		}
-		same(t, "all pieces", h.Sum(), Sum(all))
-	}
+// P5.3: bytes in pieces: cut at each place, in pieces of one length, and of whatever lengths.
+func TestPieces(t *testing.T) {
+	kind(t).CutAnywhere()
+	kind(t).OneLength()
+	kind(t).AnyPieces()
 }
 
 // P5.4: 32 bytes, the same for the same bytes, and others for others, though they differ in little: in one bit, or in noughts at the end, by which a block would be filled up.
@@ -400,62 +328,14 @@ func TestAlways32(t *testing.T) {
 	}
 }
 
-// P5.5: a hash and its copy go their own ways, whichever goes first, in pieces short enough to run into one another.
+// P5.5: a hash and its copy go their own ways, and copies of copies too.
 func TestApart(t *testing.T) {
-	text := sample.From(61).Text(200)
-	for length := range 200 {
-		for _, step := range []int{1, 2, 5, 64, 100} {
-			h := New()
-			for i := range length {
-				mustAdd(t, h, text[i:i+1])
-			}
-			other := h.Copy()
-			all, allOther := text[:length], text[:length]
-			for i := range 3 {
-				more, moreOther := strings.Repeat("h", step+i), strings.Repeat("o", step)
-				mustAdd(t, h, more)
-				mustAdd(t, other, moreOther)
-				all, allOther = all+more, allOther+moreOther
-				same(t, "the hash", h.Sum(), Sum(all))
-				same(t, "its copy", other.Sum(), Sum(allOther))
-			}
-		}
-	}
-}
-
-// P5.5: what is added to the one leaves the other as it was, and copies of copies too.
-func TestCopies(t *testing.T) {
-	s := sample.From(63)
-	hashes, texts := []*Hash{New()}, []string{""}
-	for range 300 {
-		i := int(s.Next()) % len(hashes)
-		if s.Next()%3 == 0 && len(hashes) < 20 {
-			hashes, texts = append(hashes, hashes[i].Copy()), append(texts, texts[i])
-		} else {
-			piece := s.Text(int(s.Next()) % 40)
-			mustAdd(t, hashes[i], piece)
-			texts[i] += piece
-		}
-		for j, h := range hashes {
-			same(t, "each", h.Sum(), Sum(texts[j]))
-		}
-	}
+	kind(t).Apart()
+	kind(t).Copies()
 }
 
 // P5.5: a digest that is asked for, and nothing that is added, changes nothing.
-func TestChangesNothing(t *testing.T) {
-	text := sample.Counting(300)
-	for _, length := range edges() {
-		h := of(t, sample.Counting(length))
-		for range 3 {
-			same(t, "asked for again", h.Sum(), Sum(sample.Counting(length)))
-			mustAdd(t, h, "")
-			h.Copy().Add("not the hash's own")
-		}
-		mustAdd(t, h, text)
-		same(t, "and then more", h.Sum(), Sum(sample.Counting(length)+text))
-	}
-}
+func TestChangesNothing(t *testing.T) { kind(t).ChangesNothing() }
 
 // P5.6: digests by many keys, of many texts and of hashes, in whatever row.
 func TestAgain(t *testing.T) {
@@ -472,7 +352,7 @@ func TestAgain(t *testing.T) {
 			Keyed(bytes+sample.Counting(33), bytes)
 		default:
 			piece := bytes[:len(bytes)/4]
-			mustAdd(t, open, piece)
+			open.Add(piece)
 			text += piece
 		}
 		same(t, "a hash that is open all the while", open.Sum(), Sum(text))
@@ -507,8 +387,8 @@ func TestMany(t *testing.T) {
 // A hash keeps no more than a block, and no room behind it that a copy could run into.
 func TestKept(t *testing.T) {
 	h := New()
-	for i, length := range append(edges(), edges()...) {
-		mustAdd(t, h, sample.Counting(length))
+	for i, length := range append(hashes.Edges(), hashes.Edges()...) {
+		h.Add(sample.Counting(length))
 		if len(h.left) > 64 || cap(h.left) != len(h.left) {
 			t.Errorf("at step %d %d bytes are kept, in room for %d", i, len(h.left), cap(h.left))
 		}
