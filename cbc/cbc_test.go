@@ -171,12 +171,14 @@ func TestMost(t *testing.T) {
 	noSeal(t, someKey, someFirst, data+data, api.ErrTooLarge)
 }
 
-// P10.1: more data than are sealed are framed as others are, and what they are sealed to by another program is opened, as the row of errors does not name it.
+// P10.2: more data than are sealed are framed as others are, but what their frame is sealed to by another program is not opened, as Seal tells nothing for them.
 func TestMoreThanMost(t *testing.T) {
-	data := sample.Counting(api.MaxStream + 1)
-	frame := longFrame(data)
-	same(t, "Frame", Frame(data), frame)
-	same(t, "Open", open(t, someKey, someFirst, library(t, someKey, someFirst, frame)), data)
+	for _, more := range []int{1, 9} {
+		data := sample.Counting(api.MaxStream + more)
+		frame := longFrame(data)
+		same(t, "Frame", Frame(data), frame)
+		noOpen(t, someKey, someFirst, library(t, someKey, someFirst, frame), api.ErrForm)
+	}
 }
 
 // P10.1: framed data: their number, they themselves, and as few bytes 0 as there may be.
